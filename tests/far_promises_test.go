@@ -7,7 +7,7 @@ import (
 	"loop.example/ringsofsteps/impl"
 )
 
-// The tests of this file hold promises 23 to 29 of the document, one each, and promise 31 as far as it speaks of chapters 1 to 3.
+// The tests of this file hold promises 23 to 29 of the document, one each, and promise 31 as far as it speaks of chapters 1 to 3; the rest of it is held with chapter 4.
 
 func TestPromise23DistancesOfSums(t *testing.T) {
 	c := farCalls{stepCalls{ringCalls{t}}}

@@ -6,7 +6,7 @@ import (
 	"loop.example/ringsofsteps/impl"
 )
 
-// The tests of this file hold promises 15 to 22 of the document, one each, and promise 30 as far as it speaks of chapter 2.
+// The tests of this file hold promises 15 to 22 of the document, one each, and promise 30 as far as it speaks of chapter 2; the rest of it is held with chapter 4.
 
 func TestPromise15StepsTurnedAndOther(t *testing.T) {
 	c := stepCalls{ringCalls{t}}
