@@ -159,10 +159,16 @@ func TestPlayListsAreNew(t *testing.T) {
 
 func checkNew(t *testing.T, ask func() []int) {
 	t.Helper()
+	checkNewBy(t, ask, 99)
+}
+
+// checkNewBy writes something into a result, behind it as well, and asks again.
+func checkNewBy[T comparable](t *testing.T, ask func() []T, other T) {
+	t.Helper()
 	first := ask()
 	want := slices.Clone(first)
 	for i := range first[:cap(first)] {
-		first[:cap(first)][i] = 99
+		first[:cap(first)][i] = other
 	}
 	if again := ask(); !slices.Equal(again, want) {
 		t.Errorf("asked again: %v, want %v", again, want)
