@@ -360,11 +360,11 @@ func termByWords(set int) string {
 	return s
 }
 
-// nearTerms returns texts that differ from a term in one byte: one less, one more, another one, or two exchanged.
-func nearTerms(s string) []string {
+// nearTexts returns texts that differ from another one in one sign: one less, one more, another one, or two exchanged.
+func nearTexts(s, signs string) []string {
 	texts := make(map[string]bool)
 	for at := range len(s) + 1 {
-		for _, sign := range strings.Split(signsOfTerms+" E", "") {
+		for _, sign := range strings.Split(signs, "") {
 			texts[s[:at]+sign+s[at:]] = true
 			if at < len(s) {
 				texts[s[:at]+sign+s[at+1:]] = true

@@ -50,7 +50,7 @@ func TestTextsNearTerms(t *testing.T) {
 	for _, n := range []int{1, 2, 7, 10, 11, impl.RingMax} {
 		terms := termsOf(n)
 		for i := 0; i < len(terms); i += 1 + len(terms)/25 {
-			for _, s := range nearTerms(terms[i]) {
+			for _, s := range nearTexts(terms[i], signsOfTerms+" E") {
 				checkToldByWords(t, n, s)
 			}
 		}
